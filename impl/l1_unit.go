@@ -100,21 +100,10 @@ func IsExpansion(list []int) bool {
 
 // SumOf returns the sum of 1 / d over all terms d.
 func SumOf(list []int) (Fraction, bool) {
-	if len(list) > MaxTerms {
+	if !isRising(list, 1, 1) {
 		return Fraction{}, false
 	}
-	sum, last := Fraction{Num: 0, Den: 1}, 0
-	for _, term := range list {
-		if term <= last {
-			return Fraction{}, false
-		}
-		grown, ok := AddFractions(sum, Fraction{Num: 1, Den: term})
-		if !ok {
-			return Fraction{}, false
-		}
-		sum, last = grown, term
-	}
-	return sum, true
+	return addUnits(list)
 }
 
 // CommonMultiple returns the least number of at least 1 that all terms divide. It fails if it is greater than MaxPart.
@@ -293,6 +282,33 @@ func commonDivisor(a int, b int) int {
 		a, b = b, a%b
 	}
 	return a
+}
+
+// isRising reports whether a list has at most MaxTerms numbers of at most MaxPart, the first one at least least, and each other one greater by at least by than that before it.
+func isRising(list []int, least int, by int) bool {
+	if len(list) > MaxTerms {
+		return false
+	}
+	for _, number := range list {
+		if number < least || number > MaxPart {
+			return false
+		}
+		least = number + by
+	}
+	return true
+}
+
+// addUnits returns the sum of 1 / d over all numbers d of a list of numbers of at least 1. It fails if the sum of its first ones is no fraction, however many of them are taken.
+func addUnits(list []int) (Fraction, bool) {
+	sum := Fraction{Num: 0, Den: 1}
+	for _, d := range list {
+		grown, ok := AddFractions(sum, Fraction{Num: 1, Den: d})
+		if !ok {
+			return Fraction{}, false
+		}
+		sum = grown
+	}
+	return sum, true
 }
 
 // ifExpansion lets a result that has just been made pass only if it is an expansion.

@@ -40,11 +40,35 @@ func checkList(t *testing.T, name string, args any, got []int, ok bool, want []i
 	}
 }
 
+// listSum is a list of some kind, with its sum.
+type listSum struct {
+	list []int
+	sum  impl.Fraction
+}
+
+// checkListSums checks a function that recognises lists of a kind, and one that adds them up, with some of these and with some others.
+func checkListSums(t *testing.T, kind string, is func(list []int) bool, sumOf func(list []int) (impl.Fraction, bool), rows []listSum, others [][]int) {
+	t.Helper()
+	for _, row := range rows {
+		if !is(row.list) {
+			t.Error(row.list, "should be of the kind", kind)
+		}
+		if sum, ok := sumOf(row.list); sum != row.sum || !ok {
+			t.Error("the sum of the", kind, row.list, "is told as", sum, ok)
+		}
+	}
+	for _, list := range others {
+		if is(list) {
+			t.Error(list, "should not be of the kind", kind)
+		}
+		if sum, ok := sumOf(list); sum != none || ok {
+			t.Error("a sum is told as if it were of the kind", kind, list, sum, ok)
+		}
+	}
+}
+
 func TestIsExpansionAndSumOf(t *testing.T) {
-	for _, c := range []struct {
-		list []int
-		sum  impl.Fraction
-	}{
+	checkListSums(t, "expansion", impl.IsExpansion, impl.SumOf, []listSum{
 		{nil, fraction(0, 1)},
 		{[]int{}, fraction(0, 1)},
 		{[]int{1}, fraction(1, 1)},
@@ -56,22 +80,7 @@ func TestIsExpansionAndSumOf(t *testing.T) {
 		{[]int{512, 1953125}, fraction(1953637, billion)},
 		{[]int{1, billion - 1}, fraction(billion, billion-1)},
 		{fullList(24), fraction(24, 25)},
-	} {
-		if !impl.IsExpansion(c.list) {
-			t.Error("should be an expansion:", c.list)
-		}
-		if got, ok := impl.SumOf(c.list); got != c.sum || !ok {
-			t.Error("SumOf", c.list, got, ok)
-		}
-	}
-	for _, bad := range notExpansions {
-		if impl.IsExpansion(bad) {
-			t.Error("should be none:", bad)
-		}
-		if got, ok := impl.SumOf(bad); got != none || ok {
-			t.Error("SumOf", bad, got, ok)
-		}
-	}
+	}, notExpansions)
 }
 
 func TestCommonMultiple(t *testing.T) {

@@ -43,9 +43,14 @@ func valueOf(a impl.Fraction) *big.Rat {
 
 // sumsOf are the sums of the first terms of an expansion, or nil for another list.
 func sumsOf(list []int) []*big.Rat {
+	return sumsApart(list, 1)
+}
+
+// sumsApart are the sums of the first numbers of a list in which each one is greater at least by gap than that before it, or nil for another list.
+func sumsApart(list []int, gap int) []*big.Rat {
 	sums := []*big.Rat{new(big.Rat)}
 	for i, term := range list {
-		if i >= 24 || term < 1 || term > billion || i > 0 && list[i-1] >= term {
+		if i >= 24 || term < 1 || term > billion || i > 0 && term-gap < list[i-1] {
 			return nil
 		}
 		sum := new(big.Rat).Add(sums[i], big.NewRat(1, int64(term)))
