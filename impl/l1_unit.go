@@ -209,11 +209,7 @@ func FractionText(a Fraction) (string, bool) {
 	if !IsFraction(a) {
 		return "", false
 	}
-	text := strconv.Itoa(a.Num)
-	if a.Den != 1 {
-		text += "/" + strconv.Itoa(a.Den)
-	}
-	return text, true
+	return fractionText(a), true
 }
 
 // ParseFraction returns the fraction with a FractionText. It fails if there is none.
@@ -243,11 +239,7 @@ func ExpansionText(list []int) (string, bool) {
 	if !IsExpansion(list) {
 		return "", false
 	}
-	words := make([]string, len(list))
-	for i, term := range list {
-		words[i] = strconv.Itoa(term)
-	}
-	return strings.Join(words, "+"), true
+	return joinNumbers(list), true
 }
 
 // ParseExpansion returns the expansion with an ExpansionText. It fails if there is none.
@@ -356,6 +348,23 @@ func putIn[T cmp.Ordered](list []T, value T) ([]T, bool) {
 	grown = append(grown, list[:at]...)
 	grown = append(grown, value)
 	return append(grown, list[at:]...), true
+}
+
+// fractionText is FractionText for a value that is known to be a fraction.
+func fractionText(a Fraction) string {
+	text := strconv.Itoa(a.Num)
+	if a.Den != 1 {
+		text += "/" + strconv.Itoa(a.Den)
+	}
+	return text
+}
+
+func joinNumbers(list []int) string {
+	words := make([]string, len(list))
+	for i, number := range list {
+		words[i] = strconv.Itoa(number)
+	}
+	return strings.Join(words, "+")
 }
 
 // parseNumber reads a number only as strconv.Itoa writes it: Atoi alone would take signs and superfluous zeros.
